@@ -14,7 +14,7 @@ import (
 	"escrow/hash"
 )
 
-// The tests hold the calls against the library's HMAC, and against the chapter's words in the library's SHA-256.
+// The tests hold the calls against the library's HMAC, and against layer 2's sum under a key, which the chapter says that a seal is.
 
 // sealed is a key and a text, and the seal that the library makes of them.
 type sealed struct {
